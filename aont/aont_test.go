@@ -395,7 +395,7 @@ func TestOtherClass(t *testing.T) {
 	}
 }
 
-// P11.2: a filling that isn't all 0, at each of its bits; it has no part in the key.
+// P11.2: a filling that isn't all 0, at each of its bytes; it has no part in the key.
 func TestFillingWrong(t *testing.T) {
 	for _, class := range classList {
 		n := class/2 - 1
